@@ -3,6 +3,7 @@ package record
 import (
 	"icehouse/api"
 	"icehouse/codec"
+	"icehouse/join"
 )
 
 // rightBatch: whether the entries may be a batch.
@@ -23,16 +24,16 @@ func PutBatch(l []api.Entry) ([]byte, api.Errno) {
 	if !rightBatch(l) {
 		return nil, api.ErrArg
 	}
-	var w writer
-	w.add(codec.Number(len(l)))
+	var all join.Bytes
+	all.Add(codec.Number(len(l)))
 	for _, x := range l {
 		b, e := Put(x)
 		if e != api.OK {
 			return nil, e
 		}
-		w.add(codec.Text(string(b)))
+		all.Add(codec.Text(string(b)))
 	}
-	return w.done()
+	return all.Done()
 }
 
 // GetBatch: the batch that b is the bytes of.

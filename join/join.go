@@ -1,0 +1,25 @@
+// Package join lays pieces of bytes one behind the other.
+package join
+
+import "icehouse/api"
+
+// Bytes: the pieces up to the first error. The zero Bytes has none yet.
+type Bytes struct {
+	b   []byte
+	err api.Errno
+}
+
+// Add: one more piece, as whoever wrote it hands it on.
+func (l *Bytes) Add(b []byte, e api.Errno) {
+	if l.err == api.OK {
+		l.b, l.err = append(l.b, b...), e
+	}
+}
+
+// Done: all of them as one, or the first error.
+func (l *Bytes) Done() ([]byte, api.Errno) {
+	if l.err != api.OK {
+		return nil, l.err
+	}
+	return l.b, api.OK
+}
