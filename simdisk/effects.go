@@ -5,6 +5,7 @@ import (
 	"strings"
 
 	"icehouse/api"
+	"icehouse/standin"
 )
 
 // effect: what one operation does to a disk.
@@ -45,7 +46,7 @@ func (p *plate) against(x effect) api.Errno {
 		if e := p.there(x.from); e != api.OK {
 			return e
 		}
-		if !right(x.to) {
+		if !standin.Name(x.to) {
 			return api.ErrArg
 		}
 	case remove:
@@ -65,7 +66,7 @@ func (p *plate) there(name string) api.Errno {
 
 func (p *plate) againstNew(name string) api.Errno {
 	switch {
-	case !right(name):
+	case !standin.Name(name):
 		return api.ErrArg
 	case p.names[name] != nil:
 		return api.ErrThere
@@ -83,19 +84,6 @@ func (p *plate) againstMore(name string, n int) api.Errno {
 		return api.ErrFull
 	}
 	return api.OK
-}
-
-// right: whether a file may have the name.
-func right(name string) bool {
-	if len(name) < 1 || len(name) > api.MaxName {
-		return false
-	}
-	for i := range len(name) {
-		if name[i] < 33 || name[i] > 126 {
-			return false
-		}
-	}
-	return true
 }
 
 // do: names that are kept are copied: they may be pieces of texts that are far longer.
