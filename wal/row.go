@@ -5,6 +5,7 @@ import (
 	"slices"
 
 	"icehouse/api"
+	"icehouse/files"
 	"icehouse/simdisk"
 )
 
@@ -76,7 +77,7 @@ func (r *row) put(frame []byte, seq int) (e api.Errno) {
 	if r.held[n].room <= 0 {
 		n++
 		// Where the numbers are used up, too, segments must go first.
-		if len(r.held) >= r.most || n >= numbersEnd {
+		if len(r.held) >= r.most || nameOf(n) == "" {
 			return api.ErrBusy
 		}
 		if e = r.begin(n); e != api.OK {
@@ -93,7 +94,7 @@ func (r *row) begin(n int) (e api.Errno) {
 	defer func() {
 		if e == api.OK {
 			r.held[n] = segment{room: r.size}
-		} else if r.has(name) {
+		} else if files.Has(r.disk, name) {
 			r.held[n] = segment{}
 		}
 	}()
@@ -147,11 +148,9 @@ func (r *row) truncate(seq int) api.Errno {
 func (r *row) remove(n int) (e api.Errno) {
 	name := nameOf(n)
 	defer func() {
-		if e == api.OK || !r.has(name) {
+		if e == api.OK || !files.Has(r.disk, name) {
 			delete(r.held, n)
 		}
 	}()
 	return r.disk.Remove(name)
 }
-
-func (r *row) has(name string) bool { return slices.Contains(r.disk.List(), name) }
