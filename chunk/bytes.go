@@ -12,12 +12,8 @@ func Put(c Chunk) ([]byte, api.Errno) {
 	if !Right(c) {
 		return nil, api.ErrArg
 	}
-	labels, e := label.Bytes(c.Labels)
-	if e != api.OK {
-		return nil, e
-	}
 	var all join.Bytes
-	all.Add(codec.Text(string(labels)))
+	all.AddText(label.Bytes(c.Labels))
 	all.Add(codec.Number(len(c.Rows)))
 	first := c.Rows[0]
 	all.Add(codec.Number(first.Time))

@@ -1,7 +1,10 @@
 // Package join lays pieces of bytes one behind the other.
 package join
 
-import "icehouse/api"
+import (
+	"icehouse/api"
+	"icehouse/codec"
+)
 
 // Bytes: the pieces up to the first error. The zero Bytes has none yet.
 type Bytes struct {
@@ -14,6 +17,14 @@ func (l *Bytes) Add(b []byte, e api.Errno) {
 	if l.err == api.OK {
 		l.b, l.err = append(l.b, b...), e
 	}
+}
+
+// AddText: likewise, as a text: its length stands ahead of it.
+func (l *Bytes) AddText(b []byte, e api.Errno) {
+	if e == api.OK {
+		b, e = codec.Text(string(b))
+	}
+	l.Add(b, e)
 }
 
 // Done: all of them as one, or the first error.

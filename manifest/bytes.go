@@ -27,7 +27,7 @@ func Put(s State) ([]byte, api.Errno) {
 	}
 	put(len(s.Blocks))
 	for _, m := range s.Blocks {
-		all.Add(blockText(m))
+		all.AddText(planner.Put(m))
 	}
 	put(len(s.Intents))
 	for _, x := range s.Intents {
@@ -43,14 +43,6 @@ func Put(s State) ([]byte, api.Errno) {
 		return nil, e
 	}
 	return codec.Frame(stateKind, in)
-}
-
-func blockText(m planner.Meta) ([]byte, api.Errno) {
-	b, e := planner.Put(m)
-	if e != api.OK {
-		return nil, e
-	}
-	return codec.Text(string(b))
 }
 
 // Get: the State that b is the bytes of.

@@ -27,11 +27,7 @@ func PutBatch(l []api.Entry) ([]byte, api.Errno) {
 	var all join.Bytes
 	all.Add(codec.Number(len(l)))
 	for _, x := range l {
-		b, e := Put(x)
-		if e != api.OK {
-			return nil, e
-		}
-		all.Add(codec.Text(string(b)))
+		all.AddText(Put(x))
 	}
 	return all.Done()
 }

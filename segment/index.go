@@ -34,11 +34,9 @@ func (x index) bytes() ([]byte, api.Errno) {
 		return cmp.Or(cmp.Compare(a.Name, b.Name), cmp.Compare(a.Value, b.Value))
 	}
 	for _, l := range slices.SortedFunc(maps.Keys(x), rising) {
-		list, e := postings.Put(x[l])
-		all.Add(nil, e)
 		all.Add(codec.Text(l.Name))
 		all.Add(codec.Text(l.Value))
-		all.Add(codec.Text(string(list)))
+		all.AddText(postings.Put(x[l]))
 	}
 	return all.Done()
 }
